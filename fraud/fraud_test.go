@@ -84,6 +84,9 @@ func TestP26_2P26_6Judge(t *testing.T) {
 			t.Error(at, e)
 		}
 	}
+	b := engine(t, "rule a when token: decline;", 50, 100)
+	judge(t, b, 0, []api.Feature{{Name: "token", Kind: api.TNumber, N: 1}}, "pass 0")
+	judge(t, b, 0, []api.Feature{{Name: "token", Kind: api.TBool, N: 1}}, "decline 0 a")
 	d := engine(t, "rule a when 1 = 1: decline; rule b when 5 < sum(merchant, 10): pass score 49;", 50, 100)
 	judge(t, d, 0, sale("c", "m", 2000), "decline 0 a")
 	d.Record(3, sale("c", "m", 1), 6)
