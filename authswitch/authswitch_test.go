@@ -180,7 +180,7 @@ func TestP31_4P31_5P31_13Requests(t *testing.T) {
 	}
 }
 
-func TestP31_4Tokens(t *testing.T) {
+func TestP31_2P31_4Tokens(t *testing.T) {
 	s := of(t)
 	v, _ := token.New("9", 16)
 	s.Vault(v)
@@ -202,7 +202,7 @@ func TestP31_4Tokens(t *testing.T) {
 	(*Switch)(nil).Vault(v)
 }
 
-func TestP31_6P31_7Reversals(t *testing.T) {
+func TestP31_6P31_7P31_8Reversals(t *testing.T) {
 	s := of(t)
 	handle(t, s, 10, "shopbank", reversal(400, 50, 1), "shopbank 410 50 39= 4=1 56=1 card 999999999999")
 	poll(t, s, 10, "")

@@ -477,7 +477,7 @@ func TestP51_8Disputes(t *testing.T) {
 	sound(t, n, 20500)
 }
 
-func TestP51_11P51_12Queries(t *testing.T) {
+func TestP51_10P51_11P51_12Queries(t *testing.T) {
 	n := of(t)
 	if !n.Quiet() || n.Log() != nil || n.Total() != 20500 {
 		t.Error("new network")
