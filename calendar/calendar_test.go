@@ -65,7 +65,7 @@ func TestP3_3Times(t *testing.T) {
 }
 
 func TestP3_4Text(t *testing.T) {
-	for s, want := range map[string]api.Errno{"": api.ErrShort, "1970-01-1": api.ErrShort, "1970-01-011": api.ErrLong, "1970/01-01": api.ErrFormat, "1970-01/01": api.ErrFormat, "1970-0a-01": api.ErrFormat, "+970-01-01": api.ErrFormat, "1970-13-01": api.ErrRange, "2001-02-29": api.ErrRange, "9999-01-01": api.ErrRange} {
+	for s, want := range map[string]api.Errno{"": api.ErrShort, "1970-01-1": api.ErrShort, "1970-01-011": api.ErrLong, "1970/01-01": api.ErrFormat, "1970-01/01": api.ErrFormat, "1970-0a-01": api.ErrFormat, "1970-a1-01": api.ErrFormat, "1970-01-a1": api.ErrFormat, "1970-01-0a": api.ErrFormat, "a970-01-01": api.ErrFormat, "197a-01-01": api.ErrFormat, "+970-01-01": api.ErrFormat, "1970-13-01": api.ErrRange, "2001-02-29": api.ErrRange, "9999-01-01": api.ErrRange} {
 		if n, e := Parse(s); n != 0 || e != want {
 			t.Error(s, n, e)
 		}

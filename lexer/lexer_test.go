@@ -26,7 +26,7 @@ func TestP8_1Scan(t *testing.T) {
 		e  api.Errno
 		at int
 	}{
-		"12a": {api.ErrFormat, 0}, "a 01": {api.ErrFormat, 2}, "1_0": {api.ErrFormat, 0}, "_a": {api.ErrFormat, 0}, " !": {api.ErrFormat, 1}, "a\r": {api.ErrFormat, 1}, "a\"b": {api.ErrFormat, 1}, "\"a\nb\"": {api.ErrFormat, 0}, "\"\x80\"": {api.ErrFormat, 0},
+		"12a": {api.ErrFormat, 0}, "a 01": {api.ErrFormat, 2}, "1_0": {api.ErrFormat, 0}, "_a": {api.ErrFormat, 0}, " !": {api.ErrFormat, 1}, "a\r": {api.ErrFormat, 1}, "a\"b": {api.ErrFormat, 1}, "\"a\nb\"": {api.ErrFormat, 0}, "\"\x80\"": {api.ErrFormat, 0}, "\"\x7f\"": {api.ErrFormat, 0}, "\"\x1f\"": {api.ErrFormat, 0},
 		"abcdefghijklmnopq": {api.ErrLong, 0}, "9007199254740993": {api.ErrRange, 0}, "1 99999999999999999999": {api.ErrRange, 2}, "é": {api.ErrFormat, 0}, "aé": {api.ErrFormat, 1}, "a & 01": {api.ErrFormat, 2},
 		" \"" + strings.Repeat("a", 101) + "\"": {api.ErrLong, 1}, "\"" + strings.Repeat("a", 101): {api.ErrFormat, 0}, strings.Repeat(" ", 4001): {api.ErrLong, 0}, "\x00": {api.ErrFormat, 0}, "/": {api.ErrFormat, 0}, "00": {api.ErrFormat, 0},
 	} {
@@ -34,7 +34,7 @@ func TestP8_1Scan(t *testing.T) {
 			t.Error(s, l, e, at)
 		}
 	}
-	for _, s := range []string{"9007199254740992", "abcdefghijklmnop", "\"" + strings.Repeat("a", 100) + "\"", "\"\"", "#é"} {
+	for _, s := range []string{"9007199254740992", "abcdefghijklmnop", "zZaA_09", "Z", "A", "z", "9", "\" ~\"", "\"" + strings.Repeat("a", 100) + "\"", "\"\"", "#é"} {
 		if l, e, _ := Scan(s); len(l) > 2 || e != api.OK {
 			t.Error(s, l, e)
 		}

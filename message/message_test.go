@@ -1,6 +1,7 @@
 package message
 
 import (
+	"slices"
 	"strings"
 	"testing"
 
@@ -63,7 +64,7 @@ func TestP11_2P11_3P11_8Text(t *testing.T) {
 }
 
 func TestP11_4Get(t *testing.T) {
-	m := of(1, 4, "000000000012", 4, "x", 70, "", 42, "12345678901234567890", 95, "999999999999999999", 59, "+1")
+	m := of(1, 4, "000000000012", 4, "x", 70, "", 42, "12345678901234567890", 95, "999999999999999999", 59, "+1", 48, "1000000000000000000")
 	if v, ok := Get(m, 4); v != "000000000012" || !ok {
 		t.Error(v)
 	}
@@ -73,7 +74,7 @@ func TestP11_4Get(t *testing.T) {
 	for n, want := range map[int]struct {
 		n int64
 		e api.Errno
-	}{4: {12, api.OK}, 5: {0, api.ErrNone}, 70: {0, api.ErrFormat}, 42: {0, api.ErrFormat}, 95: {999999999999999999, api.OK}, 59: {0, api.ErrFormat}} {
+	}{4: {12, api.OK}, 5: {0, api.ErrNone}, 70: {0, api.ErrFormat}, 42: {0, api.ErrFormat}, 95: {999999999999999999, api.OK}, 59: {0, api.ErrFormat}, 48: {0, api.ErrFormat}} {
 		if x, e := Number(m, n); x != want.n || e != want.e {
 			t.Error(n, x, e)
 		}
@@ -120,7 +121,7 @@ func TestP11_6P11_7P11_9Reply(t *testing.T) {
 	for _, x := range r.Elements {
 		got = append(got, x.Number)
 	}
-	if want := []int{2, 4, 7, 11, 32, 37, 39, 41, 42, 49, 56, 70, 100}; e != api.OK || !Answers(full, r) || len(got) != len(want) || Check(r) != api.OK {
+	if want := []int{2, 4, 7, 11, 32, 37, 39, 41, 42, 49, 56, 70, 100}; e != api.OK || !Answers(full, r) || !slices.Equal(got, want) || Check(r) != api.OK {
 		t.Error(got, e)
 	}
 	if v, _ := Get(r, 39); v != "05" {

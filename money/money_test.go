@@ -128,7 +128,7 @@ func TestP1_5P1_10Split(t *testing.T) {
 			}
 		}
 	}
-	for i, w := range [][]int64{nil, {0}, {-1, 2}, {1<<40 + 1}, make([]int64, 65)} {
+	for i, w := range [][]int64{nil, {0}, {-1, 2}, {1<<40 + 1}, slicesOf(1, 65)} {
 		if l, e := Split(eur(1), w); e != api.ErrRange || l != nil {
 			t.Error(i, l, e)
 		}
