@@ -45,7 +45,7 @@ func TestP8_1Scan(t *testing.T) {
 }
 
 func TestP8_2P8_6P8_7Print(t *testing.T) {
-	for s, want := range map[string]string{"a<=1": "a <= 1", "": "", "#x": "", "f( \"a b\" ,0)": "f ( \"a b\" , 0 )"} {
+	for s, want := range map[string]string{"a<=1": "a <= 1", "": "", "#x": "", "f( \"a b\" ,0)": "f ( \"a b\" , 0 )", "1234567890": "1234567890"} {
 		l, _, _ := Scan(s)
 		if Print(l) != want {
 			t.Error(s, Print(l))

@@ -196,7 +196,7 @@ func TestP1_8P1_9P1_11Text(t *testing.T) {
 		}
 	}
 	for s, want := range map[string]api.Errno{
-		"": api.ErrShort, " EUR": api.ErrFormat, "EUR": api.ErrFormat, "- EUR": api.ErrFormat, "1.00 EU": api.ErrFormat, "00.10 EUR": api.ErrFormat, ".10 EUR": api.ErrFormat, "-0.00 EUR": api.ErrFormat,
+		"": api.ErrShort, " EUR": api.ErrFormat, "EUR": api.ErrFormat, "- EUR": api.ErrFormat, "1.00 EU": api.ErrFormat, "1.00 eur": api.ErrFormat, "1.00 EU1": api.ErrFormat, "1 JP": api.ErrFormat, " JPY": api.ErrFormat, "-1 JPYX": api.ErrFormat, "00.10 EUR": api.ErrFormat, ".10 EUR": api.ErrFormat, "-0.00 EUR": api.ErrFormat,
 		"-0 JPY": api.ErrFormat, "1. EUR": api.ErrFormat, "1.0 EUR": api.ErrFormat, "1.000 EUR": api.ErrFormat, "1,00 EUR": api.ErrFormat, "1.00  EUR": api.ErrFormat, "1.a0 EUR": api.ErrFormat, "1 EUR": api.ErrFormat,
 		"--1.00 EUR": api.ErrFormat, "00 JPY": api.ErrFormat, "1.00 EUR ": api.ErrFormat,
 		"45035996273704.97 EUR": api.ErrRange, strings.Repeat("9", 5000) + " JPY": api.ErrRange, "-" + strings.Repeat("9", 5000) + ".00 EUR": api.ErrRange,

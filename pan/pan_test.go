@@ -51,6 +51,11 @@ func TestP4_4P4_5P4_11Make(t *testing.T) {
 			t.Error(i, s, e)
 		}
 	}
+	if s, e := Make("4000000000", 9, 12); len(s) != 12 || e != api.OK {
+		t.Error(s, e)
+	} else if n, ok := Index("4000000000", s); n != 9 || !ok {
+		t.Error(n, ok)
+	}
 	last := ""
 	for _, n := range []int{0, 1, 9, 10, 999, 123456, 999999999} {
 		s, e := Make("400000", n, 16)

@@ -62,6 +62,12 @@ func TestP2_4Derived(t *testing.T) {
 	if r, e := Cross(of("USD", "EUR", 1<<40, 3), of("EUR", "GBP", 3, 1<<40)); r != of("USD", "GBP", 1, 1) || e != api.OK {
 		t.Error(r, e)
 	}
+	if r, e := Cross(of("USD", "EUR", 1<<20, 1), of("EUR", "GBP", 1<<20, 1<<10)); r != of("USD", "GBP", 1<<30, 1) || e != api.OK {
+		t.Error(r, e)
+	}
+	if r, e := Cross(of("USD", "EUR", 1<<20, 1), of("EUR", "GBP", 1<<20, 3)); r != of("USD", "GBP", 1<<40, 3) || e != api.OK {
+		t.Error(r, e)
+	}
 	if r, e := Markup(of("USD", "EUR", 9, 10), 100); r != of("USD", "EUR", 909, 1000) || e != api.OK {
 		t.Error(r, e)
 	}
