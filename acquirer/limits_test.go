@@ -7,6 +7,11 @@ import (
 )
 
 func TestP30_2P30_3P30_6P30_7P30_8Limits(t *testing.T) {
+	for _, n := range []int{1, 100000} {
+		if _, e := New("a", 0, n, n); e != api.OK {
+			t.Error(n, e)
+		}
+	}
 	h := host(t)
 	for i, change := range []func(p *Purchase){
 		func(p *Purchase) { p.Card = "123456789012" }, func(p *Purchase) { p.Card = "1234567890123456789" }, func(p *Purchase) { p.Terminal = "12345678" }, func(p *Purchase) { p.Terminal = "~!" },

@@ -32,6 +32,10 @@ func TestP27_2P27_4P27_5P27_6Limits(t *testing.T) {
 			t.Error(i, expired, e)
 		}
 	}
+	most, _ := New("a", "EUR", api.MaxAmount, 0, 5)
+	if a, n, e := Reverse(most, 0); a.Reversed != api.MaxAmount || n != api.MaxAmount || e != api.OK || Check(a) != api.OK {
+		t.Error(a, n, e)
+	}
 	one, _ := New("a", "EUR", 2, 0, 5)
 	if a, e := Raise(one, 1, api.MaxTime); a.Approved != 3 || e != api.OK {
 		t.Error(a, e)

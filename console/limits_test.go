@@ -12,6 +12,7 @@ func TestP53_1Standard(t *testing.T) {
 	runs(t, "network 1 1 9000; buy 0 0 0 1000 m; buy 0 0 0 1000 m; wait 5; capture 0 1150; capture 1 1151; clear; holder 0 0", "ok; 0 000000000001; 1 000000000002; ok 5; ok; ok; reject 000000000002-1 22; ok 1; 7850 1000")
 	runs(t, "network 1 1 9000; buy 0 0 0 1000 m; wait 5; capture 0 400; clear; holder 0 0; buy 0 0 0 10 m; wait 604801; holder 0 0; wait 1; holder 0 0", "ok; 0 000000000001; ok 5; ok; ok 0; 8600 0; 1 000000000002; ok 604806; 8600 10; ok 604807; 8600 0")
 	runs(t, "network 1 1 9000; wait 64799; buy 0 0 0 1000 m; buy 0 0 0 1000 m; wait 4; capture 0 10; clear; settle 0; settle 1", "ok; ok 64799; 0 000000000001; 1 000000000002; ok 64803; ok; ok 0; ok 0; bank0 acq0 0.10 EUR; ok 1")
+	runs(t, "network 1 1 9000; wait 64795; buy 0 0 0 1000 m; wait 5; capture 0 10; clear; settle 0; settle 1", "ok; ok 64795; 0 000000000001; ok 64800; ok; ok 0; ok 0; bank0 acq0 0.10 EUR; ok 1")
 	for k, want := range []string{"401000", "402000", "403000"} {
 		c := New()
 		c.Do("network 4 1 100")

@@ -58,7 +58,7 @@ func TestP10_2P10_3CheckEncode(t *testing.T) {
 		e     api.Errno
 	}{
 		{2, "4111111111111111", "164111111111111111", api.OK}, {41, "T1", "T1      ", api.OK}, {39, "5", "", api.ErrShort}, {39, "555", "", api.ErrLong}, {39, "5a", "", api.ErrFormat}, {52, "0123456789ABCDEF", "", api.ErrFormat}, {52, "0123456789abcdef", "0123456789abcdef", api.OK},
-		{5, "1", "", api.ErrNone}, {2, "", "", api.ErrShort}, {2, strings.Repeat("1", 20), "", api.ErrLong}, {41, "", "", api.ErrShort}, {41, "123456789", "", api.ErrLong}, {41, " T1", "", api.ErrFormat}, {42, "T1 ", "", api.ErrFormat}, {42, "a b", "03a b", api.OK}, {42, "a\x7f", "", api.ErrFormat},
+		{5, "1", "", api.ErrNone}, {2, "", "", api.ErrShort}, {2, strings.Repeat("1", 20), "", api.ErrLong}, {41, "", "", api.ErrShort}, {41, "123456789", "", api.ErrLong}, {41, " T1", "", api.ErrFormat}, {42, "T1 ", "", api.ErrFormat}, {42, "a b", "03a b", api.OK}, {42, "~", "01~", api.OK}, {41, "a", "a       ", api.OK}, {2, "1", "011", api.OK}, {42, "a\x1fb", "", api.ErrFormat}, {42, "a\x7f", "", api.ErrFormat},
 		{49, "EUR", "EUR", api.OK}, {49, "EU", "", api.ErrShort}, {49, "EU ", "", api.ErrFormat}, {48, strings.Repeat("x", 255), "255" + strings.Repeat("x", 255), api.OK}, {48, strings.Repeat("x", 256), "", api.ErrLong}, {48, "é", "", api.ErrFormat}, {2, "4 1", "", api.ErrFormat},
 	} {
 		s, e := Encode(c.n, c.value)

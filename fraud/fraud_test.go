@@ -53,7 +53,7 @@ func TestP26_1New(t *testing.T) {
 		refer, decline int
 		want           api.Errno
 	}{
-		{nil, 1, 1000000, api.OK}, {make([]api.Rule, 65), 0, 0, api.ErrLong}, {change(func(r *api.Rule) { r.Name = "a-b" }), 0, 0, api.ErrName}, {change(func(r *api.Rule) { r.Name, r.Action = "b", 9 }), 0, 0, api.ErrExists}, {change(func(r *api.Rule) { r.Action = 3 }), 0, 0, api.ErrRange}, {change(func(r *api.Rule) { r.Action = -1 }), 0, 0, api.ErrRange}, {change(func(r *api.Rule) { r.Score = 1001 }), 0, 0, api.ErrRange},
+		{nil, 1, 1000000, api.OK}, {make([]api.Rule, 65), 0, 0, api.ErrLong}, {change(func(r *api.Rule) { r.Name = "a-b" }), 0, 0, api.ErrName}, {change(func(r *api.Rule) { r.Name, r.Action = "b", 9 }), 0, 0, api.ErrExists}, {change(func(r *api.Rule) { r.Action = 3 }), 5, 5, api.ErrRange}, {change(func(r *api.Rule) { r.Action = -1 }), 5, 5, api.ErrRange}, {change(func(r *api.Rule) { r.Score = 1001 }), 5, 5, api.ErrRange}, {change(func(r *api.Rule) { r.Score = -1 }), 5, 5, api.ErrRange},
 		{nil, 0, 5, api.ErrRange}, {nil, 6, 5, api.ErrRange}, {nil, 6, 1000001, api.ErrRange}, {change(func(r *api.Rule) { r.When = api.Expr{} }), 0, 5, api.ErrRange}, {change(func(r *api.Rule) { r.When = api.Expr{} }), 5, 5, api.ErrFormat}, {change(func(r *api.Rule) { r.When = api.Expr{Op: api.XName, Name: "x"} }), 5, 5, api.ErrNone}, {change(func(r *api.Rule) { r.When = api.Expr{Op: api.XName, Name: "amount"} }), 5, 5, api.ErrType}, {change(func(r *api.Rule) { r.When = api.Expr{Op: api.XName, Name: "token"} }), 5, 5, api.OK},
 		{rules(t, "rule a when 1 = 1: pass; rule rules when count(amount, 5) < 1: pass;"), 5, 5, api.ErrType},
 	} {

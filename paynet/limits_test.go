@@ -87,11 +87,10 @@ func TestP51_5P51_8Ledger(t *testing.T) {
 		t.Error(len(l))
 	}
 	advance(t, n, 100*day)
-	if l, e := n.Settle(109); l != nil || e != api.ErrState {
-		t.Error(e)
-	}
-	if _, e := n.Settle(110); e != api.ErrTime && e != api.ErrState {
-		t.Error(e)
+	for date, want := range map[int]api.Errno{109: api.ErrState, 110: api.ErrState, 111: api.ErrTime} {
+		if l, e := n.Settle(date); l != nil || e != want {
+			t.Error(date, e)
+		}
 	}
 	sound(t, n, 20500)
 }
